@@ -87,6 +87,28 @@ func TestP8_1Names(t *testing.T) {
 	}
 }
 
+func TestP8_1NameAlone(t *testing.T) {
+	for _, s := range []string{"a", "Z", "_", "a1", "_0", "nOt", strings.Repeat("x", 400), strings.Repeat("x", 100000)} {
+		if !Name(s) {
+			t.Errorf("%.60q is a name", s)
+		}
+	}
+	for c := range 256 {
+		for _, s := range []string{string([]byte{byte(c)}), "a" + string([]byte{byte(c)}), string([]byte{byte(c)}) + "a"} {
+			l, _, err := Words(s)
+			want := err == api.OK && len(l) == 2 && l[0] == name(s)
+			if Name(s) != want {
+				t.Errorf("Name(%q) = %t", s, !want)
+			}
+		}
+	}
+	for _, s := range []string{"", " ", "a ", "a b", "a.b", "1", "1a", "a\u00e9", "\"a\"", "a=", strings.Repeat("x", 1000) + "-"} {
+		if Name(s) {
+			t.Errorf("%.60q is no name", s)
+		}
+	}
+}
+
 func TestP8_1EveryFirstByte(t *testing.T) {
 	alone := "().,+-*/%<>="
 	for c := range 256 {

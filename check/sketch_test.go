@@ -1,12 +1,14 @@
 package check
 
 import (
+	"maps"
 	"math/rand"
 	"slices"
 	"strings"
 	"testing"
 
 	"dossier/api"
+	"dossier/eval"
 	"dossier/expr"
 	"dossier/value"
 )
@@ -82,26 +84,20 @@ func resultOf(op int, kinds []int) (int, api.Errno) {
 	return kind, api.OK
 }
 
-// valueOf is the value of a tree, where it has one; an instance of a definition has a value of its kind.
-func (k sketch) valueOf(n api.Node) (api.Value, bool) {
-	switch n.Op {
-	case api.OpValue:
-		return n.Value, true
-	case api.OpPath:
-		v, is := k.held[n.Text]
-		return v, is && v.Kind == k.kinds[n.Text] && v.Kind != none
-	case api.OpCount, api.OpNumber:
-		return value.Int(len(n.Text)), true
-	}
-	operands := make([]api.Value, 2)
-	for i, kid := range n.Kids {
-		v, is := k.valueOf(kid)
-		if !is {
-			return api.Value{}, false
+// filled is a case with an instance of each definition, which has a value of its kind, or none.
+func (k sketch) filled(r *rand.Rand) api.Case {
+	var c api.Case
+	for _, path := range slices.Sorted(maps.Keys(k.held)) {
+		v := k.held[path]
+		if v.Kind != k.kinds[path] {
+			v = api.Value{}
 		}
-		operands[i] = v
+		c.Docs = append(c.Docs, api.Doc{Path: strings.ReplaceAll(path, ".", "#1.") + "#1", Value: v})
 	}
-	return value.Do(n.Op, operands[0], operands[1])
+	for range r.Intn(6) {
+		c.Insts = append(c.Insts, api.Inst{Item: pick(r, "s", "t"), State: 1 + r.Intn(8)})
+	}
+	return c
 }
 
 func pick[T any](r *rand.Rand, l ...T) T { return l[r.Intn(len(l))] }
@@ -245,7 +241,7 @@ func TestP10_3ValueIsOfTheKind(t *testing.T) {
 		if err != api.OK {
 			continue
 		}
-		v, is := k.valueOf(n)
+		v, is := eval.Eval(n, k.filled(r))
 		if is && (v.Kind != kind || !value.Can(v)) {
 			s, _ := expr.Print(n)
 			t.Fatalf("%s of the kind %d has the value %+v", s, kind, v)

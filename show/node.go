@@ -2,14 +2,15 @@ package show
 
 import "dossier/api"
 
-const space = "http://www.omg.org/spec/CMMN/20151109/MODEL"
+// Space is the namespace of all elements of a document.
+const Space = "http://www.omg.org/spec/CMMN/20151109/MODEL"
 
 // A node is an element that is being built.
 type node struct{ api.Element }
 
 // tag returns an element of the name with the given parts. Those that are nil are left out.
 func tag(name string, parts ...*node) *node {
-	n := &node{api.Element{Space: space, Name: name}}
+	n := &node{api.Element{Space: Space, Name: name}}
 	return n.add(parts...)
 }
 

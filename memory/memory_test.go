@@ -1,0 +1,167 @@
+// Package memory holds the document's rule 'Memory' for the calls of layers 19 and 20: arguments are left alone, and no list of a result is in memory of another list.
+package memory
+
+import (
+	"reflect"
+	"testing"
+
+	"dossier/api"
+	"dossier/cascade"
+	"dossier/latch"
+	"dossier/tree"
+)
+
+// each visits all lists in the value that a pointer points to.
+func each(v reflect.Value, visit func(list reflect.Value)) {
+	switch v.Kind() {
+	case reflect.Pointer:
+		each(v.Elem(), visit)
+	case reflect.Struct:
+		for k := range v.NumField() {
+			each(v.Field(k), visit)
+		}
+	case reflect.Slice:
+		visit(v)
+		for k := range v.Len() {
+			each(v.Index(k), visit)
+		}
+	}
+}
+
+// widen gives all lists new memory, with spare capacity of zeros.
+func widen(p any) {
+	each(reflect.ValueOf(p), func(list reflect.Value) {
+		wide := reflect.MakeSlice(list.Type(), list.Len()+3, list.Len()+3)
+		reflect.Copy(wide, list)
+		list.Set(wide.Slice(0, list.Len()))
+	})
+}
+
+// unspoilt reports whether the spare capacity of all lists is zeros.
+func unspoilt(p any) bool {
+	is := true
+	each(reflect.ValueOf(p), func(list reflect.Value) {
+		for k := list.Len(); k < list.Cap(); k++ {
+			is = is && list.Slice(0, list.Cap()).Index(k).IsZero()
+		}
+	})
+	return is
+}
+
+// A stretch of memory is that of a list, spare capacity included.
+type stretch struct{ from, to uintptr }
+
+func stretches(p any) []stretch {
+	var l []stretch
+	each(reflect.ValueOf(p), func(list reflect.Value) {
+		if size := uintptr(list.Cap()) * list.Type().Elem().Size(); size > 0 {
+			l = append(l, stretch{list.Pointer(), list.Pointer() + size})
+		}
+	})
+	return l
+}
+
+type arguments struct {
+	Model  api.Model
+	Case   api.Case
+	Events []api.Event
+}
+
+type results struct {
+	Case   api.Case
+	Events []api.Event
+}
+
+// given are arguments with spare capacity everywhere.
+func given(t *testing.T) arguments {
+	t.Helper()
+	waits := []api.Sentry{{On: []api.OnPart{{Item: "u", Event: api.EvStart}, {Item: "a", Event: api.EvStart}}}, {If: "true"}}
+	g := arguments{Model: api.Model{ID: "m", Roles: []string{"r"}, Files: []api.FileItem{{Name: "f", Refs: []string{"f"}}}, Plan: api.Item{ID: "p", Exit: waits[1:], Kids: []api.Item{
+		{ID: "s", Kind: api.ItemStage, Exit: waits, Kids: []api.Item{
+			{ID: "t", Kind: api.ItemHuman, Entry: waits, Roles: []string{"r"}}, {ID: "u", Kind: api.ItemStage, Kids: []api.Item{{ID: "w", Kind: api.ItemTimer, After: 5}}},
+		}, Table: []api.Item{{ID: "d", Kind: api.ItemCase, Entry: waits}}},
+		{ID: "a", Kind: api.ItemProcess, Free: true, Entry: waits[1:], Exit: waits[1:]},
+	}}}}
+	c, l, err := cascade.Root(g.Model, 1, 9)
+	for _, path := range []string{"p.1/s.1", "p.1/s.1/u.1"} {
+		var more []api.Event
+		if err == api.OK {
+			c, more, err = cascade.Do(g.Model, c, path, api.EvStart, 9)
+		}
+		l = append(l, more...)
+	}
+	if err != api.OK || len(c.Insts) != 6 {
+		t.Fatal(err, c)
+	}
+	c.Docs = []api.Doc{{Path: "f#1", Refs: []string{"f#1", "f#2"}}, {Path: "f#2", Refs: []string{"f#2"}}}
+	g.Case, g.Events = c, l
+	widen(&g)
+	return g
+}
+
+// calls are those that are held here, by their names.
+func calls() map[string]func(g arguments) results {
+	l := map[string]func(g arguments) results{
+		"Root": func(g arguments) results {
+			c, l, _ := cascade.Root(g.Model, 1, 9)
+			return results{c, l}
+		},
+		"Create": func(g arguments) results {
+			c, l, _ := cascade.Create(g.Model, g.Case, "p.1/s.1", "d", 9)
+			return results{c, l}
+		},
+		"Latch":              func(g arguments) results { return results{Case: latch.Latch(g.Model, g.Case, g.Events)} },
+		"Latch of no events": func(g arguments) results { return results{Case: latch.Latch(g.Model, g.Case, nil)} },
+		"Clear":              func(g arguments) results { return results{Case: latch.Clear(g.Model, g.Case, "p.1/s.1/t.1")} },
+		"Clear of none":      func(g arguments) results { return results{Case: latch.Clear(g.Model, g.Case, "p.1/s.1/t.2")} },
+		"Matches and Satisfied": func(g arguments) results {
+			latch.Matches(g.Model, g.Case.Insts[0], g.Model.Plan.Kids[0].Exit[0].On[0], g.Events[0])
+			latch.Satisfied(g.Model, g.Case, "p.1/s.1/t.1", true)
+			return results{Case: tree.Copy(g.Case)}
+		},
+	}
+	for _, x := range []struct {
+		path  string
+		event int
+	}{
+		{"p.1", api.EvComplete}, {"p.1/s.1", api.EvSuspend}, {"p.1/s.1", api.EvExit}, {"p.1/s.1", api.EvFault}, {"p.1/s.1/u.1", api.EvTerminate}, {"p.1/a.1", api.EvStart}, {"p.1/s.1/t.1", api.EvEnable},
+	} {
+		l["Do "+x.path] = func(g arguments) results {
+			c, l, _ := cascade.Do(g.Model, g.Case, x.path, x.event, 9)
+			return results{c, l}
+		}
+	}
+	l["Do, after Create"] = func(g arguments) results {
+		c, _, _ := cascade.Create(g.Model, g.Case, "p.1", "s", 9)
+		c, l, _ := cascade.Do(g.Model, c, "p.1/s.2", api.EvStart, 9)
+		return results{c, l}
+	}
+	l["Do, after Do"] = func(g arguments) results {
+		c, _, _ := cascade.Do(g.Model, g.Case, "p.1", api.EvSuspend, 9)
+		c, l, _ := cascade.Do(g.Model, c, "p.1", api.EvResume, 9)
+		return results{c, l}
+	}
+	return l
+}
+
+func TestMemory(t *testing.T) {
+	for name, call := range calls() {
+		g, want := given(t), given(t)
+		r := call(g)
+		if !reflect.DeepEqual(g, want) || !unspoilt(&g) {
+			t.Errorf("%s: an argument was modified", name)
+		}
+		mine, others := stretches(&r), stretches(&g)
+		for _, x := range mine {
+			for _, y := range others {
+				if x.from < y.to && y.from < x.to {
+					t.Errorf("%s: a list of the result is in memory of another list", name)
+				}
+			}
+			others = append(others, x)
+		}
+		if len(mine) < 5 {
+			t.Errorf("%s: nothing was held", name)
+		}
+	}
+}

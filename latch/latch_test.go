@@ -1,6 +1,7 @@
 package latch
 
 import (
+	"reflect"
 	"slices"
 	"testing"
 
@@ -230,6 +231,28 @@ func TestP20_1LatchNot(t *testing.T) {
 	want := with(map[string][]int{"p.1/s.1/b.1": {2, 0, 0, 1, 0}, "p.1/s.2/b.1": {2, 0, 0, 1, 0}})
 	want.Insts = append(want.Insts, want.Insts[3])
 	wantCase(t, "twice", Latch(review(), c, l), want)
+}
+
+// Record returns an instance of its own, or none.
+func TestP20_1Record(t *testing.T) {
+	l := []api.Event{event("p.1/a.1", api.EvComplete), event("p.1/a.1", api.EvStart)}
+	x := inst("p.1/s.1/b.1", api.Active, 4, 0, 8, 1, 0)
+	got, is := Record(review(), x, l)
+	if want := inst("p.1/s.1/b.1", api.Active, 6, 0, 8, 1, 0); !is || !reflect.DeepEqual(got, want) || x.Latches[0] != 4 {
+		t.Errorf("%+v, %t, of %+v", got, is, x)
+	}
+	got.Latches[3] = 5
+	if again, is := Record(review(), x, l[:1]); !is || again.Latches[3] != 1 || x.Latches[3] != 1 {
+		t.Error("latches are shared, or what occurs again does not count")
+	}
+	for _, y := range []api.Inst{inst("p.1/s.1/b.1", api.Completed, 0, 0, 0, 0, 0), inst("p.1/s.1/b.1", api.Active, 0), inst("p.1/none.1", api.Active), inst("p.1/s.1", api.Active, 0), {}} {
+		if got, is := Record(review(), y, l); is || !reflect.DeepEqual(got, api.Inst{}) {
+			t.Errorf("%+v, of %+v", got, y)
+		}
+	}
+	if got, is := Record(review(), x, l[1:]); is || !reflect.DeepEqual(got, api.Inst{}) {
+		t.Errorf("%+v, of no event that matches", got)
+	}
 }
 
 func TestP20_1Clear(t *testing.T) {

@@ -1,13 +1,17 @@
-// Package memory holds the document's rule 'Memory' for the calls of layers 19 and 20: arguments are left alone, and no list of a result is in memory of another list.
+// Package memory holds the document's rule 'Memory' for the calls of layers 19 to 22: arguments are left alone, and no list of a result is in memory of another list.
 package memory
 
 import (
+	"maps"
 	"reflect"
 	"testing"
 
 	"dossier/api"
 	"dossier/cascade"
+	"dossier/index"
 	"dossier/latch"
+	"dossier/model"
+	"dossier/rules"
 	"dossier/tree"
 )
 
@@ -68,8 +72,10 @@ type arguments struct {
 }
 
 type results struct {
-	Case   api.Case
-	Events []api.Event
+	Case        api.Case
+	Events      []api.Event
+	Hooks, More []api.Hook
+	Paths       []string
 }
 
 // given are arguments with spare capacity everywhere.
@@ -78,7 +84,7 @@ func given(t *testing.T) arguments {
 	waits := []api.Sentry{{On: []api.OnPart{{Item: "u", Event: api.EvStart}, {Item: "a", Event: api.EvStart}}}, {If: "true"}}
 	g := arguments{Model: api.Model{ID: "m", Roles: []string{"r"}, Files: []api.FileItem{{Name: "f", Refs: []string{"f"}}}, Plan: api.Item{ID: "p", Exit: waits[1:], Kids: []api.Item{
 		{ID: "s", Kind: api.ItemStage, Exit: waits, Kids: []api.Item{
-			{ID: "t", Kind: api.ItemHuman, Entry: waits, Roles: []string{"r"}}, {ID: "u", Kind: api.ItemStage, Kids: []api.Item{{ID: "w", Kind: api.ItemTimer, After: 5}}},
+			{ID: "t", Kind: api.ItemHuman, Entry: waits, Roles: []string{"r"}}, {ID: "u", Kind: api.ItemStage, Kids: []api.Item{{ID: "w", Kind: api.ItemTimer, After: 5}}, Repeat: "true", Required: "true"},
 		}, Table: []api.Item{{ID: "d", Kind: api.ItemCase, Entry: waits}}},
 		{ID: "a", Kind: api.ItemProcess, Free: true, Entry: waits[1:], Exit: waits[1:]},
 	}}}}
@@ -101,14 +107,21 @@ func given(t *testing.T) arguments {
 
 // calls are those that are held here, by their names.
 func calls() map[string]func(g arguments) results {
+	l := callsBelow()
+	maps.Copy(l, callsAbove())
+	return l
+}
+
+// callsBelow are those of layers 19 and 20.
+func callsBelow() map[string]func(g arguments) results {
 	l := map[string]func(g arguments) results{
 		"Root": func(g arguments) results {
 			c, l, _ := cascade.Root(g.Model, 1, 9)
-			return results{c, l}
+			return results{Case: c, Events: l}
 		},
 		"Create": func(g arguments) results {
 			c, l, _ := cascade.Create(g.Model, g.Case, "p.1/s.1", "d", 9)
-			return results{c, l}
+			return results{Case: c, Events: l}
 		},
 		"Latch":              func(g arguments) results { return results{Case: latch.Latch(g.Model, g.Case, g.Events)} },
 		"Latch of no events": func(g arguments) results { return results{Case: latch.Latch(g.Model, g.Case, nil)} },
@@ -128,18 +141,48 @@ func calls() map[string]func(g arguments) results {
 	} {
 		l["Do "+x.path] = func(g arguments) results {
 			c, l, _ := cascade.Do(g.Model, g.Case, x.path, x.event, 9)
-			return results{c, l}
+			return results{Case: c, Events: l}
 		}
 	}
 	l["Do, after Create"] = func(g arguments) results {
 		c, _, _ := cascade.Create(g.Model, g.Case, "p.1", "s", 9)
 		c, l, _ := cascade.Do(g.Model, c, "p.1/s.2", api.EvStart, 9)
-		return results{c, l}
+		return results{Case: c, Events: l}
 	}
 	l["Do, after Do"] = func(g arguments) results {
 		c, _, _ := cascade.Do(g.Model, g.Case, "p.1", api.EvSuspend, 9)
 		c, l, _ := cascade.Do(g.Model, c, "p.1", api.EvResume, 9)
-		return results{c, l}
+		return results{Case: c, Events: l}
+	}
+	return l
+}
+
+// callsAbove are those of layers 21 and 22.
+func callsAbove() map[string]func(g arguments) results {
+	l := map[string]func(g arguments) results{}
+	for _, e := range []api.Event{{Path: "p.1/s.1/u.1", Event: api.EvStart}, {Path: "p.1/s.1/u.1", Event: api.EvExit}} {
+		l["index.Latch "+model.EventName(e.Event)] = func(g arguments) results {
+			x := index.New(g.Model)
+			c, paths := x.Latch(g.Case, e)
+			return results{Case: c, Hooks: x.For(e), More: x.For(e), Paths: paths}
+		}
+	}
+	l["Latch of no index"] = func(g arguments) results {
+		c, paths := (*index.Index)(nil).Latch(g.Case, g.Events[0])
+		return results{Case: c, Paths: paths}
+	}
+	for _, event := range []int{api.EvTerminate, api.EvExit} {
+		l["Renew "+model.EventName(event)] = func(g arguments) results {
+			c, l, _ := rules.Renew(g.Model, g.Case, []api.Event{{Path: "p.1/s.1/u.1", Event: event}, {Path: "p.1/s.1", Event: event}, {Path: "p.1/s.1/u.1", Event: event}}, 9)
+			return results{Case: c, Events: l}
+		}
+	}
+	l["Fire and Required"] = func(g arguments) results {
+		for _, x := range g.Case.Insts {
+			rules.Fire(g.Model, g.Case, x.Path)
+			rules.Required(g.Model, g.Case, x.Path)
+		}
+		return results{Case: tree.Copy(g.Case)}
 	}
 	return l
 }

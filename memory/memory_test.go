@@ -1,16 +1,19 @@
-// Package memory holds the document's rule 'Memory' for the calls of layers 19 to 22: arguments are left alone, and no list of a result is in memory of another list.
+// Package memory holds the document's rule 'Memory' for the calls of layers 19 to 24: arguments are left alone, and no list of a result is in memory of another list.
 package memory
 
 import (
 	"maps"
 	"reflect"
+	"slices"
 	"testing"
 
 	"dossier/api"
 	"dossier/cascade"
+	"dossier/finish"
 	"dossier/index"
 	"dossier/latch"
 	"dossier/model"
+	"dossier/round"
 	"dossier/rules"
 	"dossier/tree"
 )
@@ -109,6 +112,7 @@ func given(t *testing.T) arguments {
 func calls() map[string]func(g arguments) results {
 	l := callsBelow()
 	maps.Copy(l, callsAbove())
+	maps.Copy(l, callsOfRounds())
 	return l
 }
 
@@ -183,6 +187,37 @@ func callsAbove() map[string]func(g arguments) results {
 			rules.Required(g.Model, g.Case, x.Path)
 		}
 		return results{Case: tree.Copy(g.Case)}
+	}
+	return l
+}
+
+// callsOfRounds are those of layers 23 and 24.
+func callsOfRounds() map[string]func(g arguments) results {
+	l := map[string]func(g arguments) results{
+		"May, Done and All": func(g arguments) results {
+			for _, x := range g.Case.Insts {
+				finish.May(g.Model, g.Case, x.Path)
+				finish.Done(g.Model, g.Case, x.Path)
+			}
+			return results{Case: tree.Copy(g.Case), Paths: finish.All(g.Model, g.Case)}
+		},
+		"Firings": func(g arguments) results {
+			round.Firings(g.Model, g.Case)
+			return results{Case: tree.Copy(g.Case)}
+		},
+	}
+	l["Round that ends the case"] = func(g arguments) results {
+		c, l, _ := round.Round(g.Model, g.Case, g.Events, 20)
+		return results{Case: c, Events: l}
+	}
+	l["Round, without exits"] = func(g arguments) results {
+		m := g.Model
+		m.Plan.Exit, m.Plan.Kids = nil, slices.Clone(m.Plan.Kids)
+		for k := range m.Plan.Kids {
+			m.Plan.Kids[k].Exit = nil
+		}
+		c, l, _ := round.Round(m, g.Case, g.Events, 20)
+		return results{Case: c, Events: l}
 	}
 	return l
 }

@@ -1,4 +1,4 @@
-// Package memory holds the document's rule 'Memory' for the calls of layers 19 to 24: arguments are left alone, and no list of a result is in memory of another list.
+// Package memory holds the document's rule 'Memory' for the calls of layers 19 to 26: arguments are left alone, and no list of a result is in memory of another list.
 package memory
 
 import (
@@ -15,6 +15,8 @@ import (
 	"dossier/model"
 	"dossier/round"
 	"dossier/rules"
+	"dossier/sem"
+	"dossier/settle"
 	"dossier/tree"
 )
 
@@ -69,9 +71,11 @@ func stretches(p any) []stretch {
 }
 
 type arguments struct {
-	Model  api.Model
-	Case   api.Case
-	Events []api.Event
+	Model   api.Model
+	Case    api.Case
+	Events  []api.Event
+	Firings []api.Firing
+	Order   []int
 }
 
 type results struct {
@@ -79,6 +83,7 @@ type results struct {
 	Events      []api.Event
 	Hooks, More []api.Hook
 	Paths       []string
+	Firings     []api.Firing
 }
 
 // given are arguments with spare capacity everywhere.
@@ -103,16 +108,18 @@ func given(t *testing.T) arguments {
 		t.Fatal(err, c)
 	}
 	c.Docs = []api.Doc{{Path: "f#1", Refs: []string{"f#1", "f#2"}}, {Path: "f#2", Refs: []string{"f#2"}}}
-	g.Case, g.Events = c, l
+	g.Case, g.Events, g.Order = c, l, []int{2, -1, 7}
+	g.Firings = []api.Firing{{Path: "p.1/s.1/t.1", Event: api.EvStart}, {Path: "p.1/s.1/u.1", Event: api.EvExit}, {Path: "p.1/a.1", Event: api.EvStart, Again: true}, {Path: "p.1/s.1/u.1/w.1", Event: api.EvOccur}}
 	widen(&g)
 	return g
 }
 
 // calls are those that are held here, by their names.
-func calls() map[string]func(g arguments) results {
+func calls(t *testing.T) map[string]func(g arguments) results {
 	l := callsBelow()
 	maps.Copy(l, callsAbove())
-	maps.Copy(l, callsOfRounds())
+	maps.Copy(l, callsOfRounds(t))
+	maps.Copy(l, callsOfPropagations())
 	return l
 }
 
@@ -192,7 +199,7 @@ func callsAbove() map[string]func(g arguments) results {
 }
 
 // callsOfRounds are those of layers 23 and 24.
-func callsOfRounds() map[string]func(g arguments) results {
+func callsOfRounds(t *testing.T) map[string]func(g arguments) results {
 	l := map[string]func(g arguments) results{
 		"May, Done and All": func(g arguments) results {
 			for _, x := range g.Case.Insts {
@@ -202,28 +209,90 @@ func callsOfRounds() map[string]func(g arguments) results {
 			return results{Case: tree.Copy(g.Case), Paths: finish.All(g.Model, g.Case)}
 		},
 		"Firings": func(g arguments) results {
-			round.Firings(g.Model, g.Case)
-			return results{Case: tree.Copy(g.Case)}
+			return results{Case: tree.Copy(g.Case), Firings: round.Firings(g.Model, g.Case)}
 		},
+		"Sequence": func(g arguments) results {
+			return results{Case: tree.Copy(g.Case), Firings: round.Sequence(g.Firings)}
+		},
+		"Endings": func(g arguments) results {
+			return results{Case: tree.Copy(g.Case), Firings: round.Endings(g.Model, g.Case, g.Events)}
+		},
+		"Perform what is not possible": func(g arguments) results {
+			c, l, _ := round.Perform(g.Model, g.Case, api.Firing{Path: "p.1/a.1", Event: api.EvOccur}, 20)
+			return results{Case: c, Events: l}
+		},
+	}
+	for k, f := range given(t).Firings {
+		l["Perform "+f.Path] = func(g arguments) results {
+			c, l, _ := round.Perform(g.Model, g.Case, g.Firings[k], 20)
+			return results{Case: c, Events: l}
+		}
 	}
 	l["Round that ends the case"] = func(g arguments) results {
 		c, l, _ := round.Round(g.Model, g.Case, g.Events, 20)
 		return results{Case: c, Events: l}
 	}
 	l["Round, without exits"] = func(g arguments) results {
-		m := g.Model
-		m.Plan.Exit, m.Plan.Kids = nil, slices.Clone(m.Plan.Kids)
-		for k := range m.Plan.Kids {
-			m.Plan.Kids[k].Exit = nil
-		}
-		c, l, _ := round.Round(m, g.Case, g.Events, 20)
+		c, l, _ := round.Round(lasting(g.Model), g.Case, g.Events, 20)
 		return results{Case: c, Events: l}
 	}
 	return l
 }
 
+// lasting is a model without exits at the top.
+func lasting(m api.Model) api.Model {
+	m.Plan.Exit, m.Plan.Kids = nil, slices.Clone(m.Plan.Kids)
+	for k := range m.Plan.Kids {
+		m.Plan.Kids[k].Exit = nil
+	}
+	return m
+}
+
+// single is one in which, besides, nothing repeats.
+func single(m api.Model) api.Model {
+	m = lasting(m)
+	kids := slices.Clone(m.Plan.Kids[0].Kids)
+	for k := range kids {
+		kids[k].Repeat = ""
+	}
+	m.Plan.Kids[0].Kids = kids
+	return m
+}
+
+// callsOfPropagations are those of layers 25 and 26.
+func callsOfPropagations() map[string]func(g arguments) results {
+	l := map[string]func(g arguments) results{
+		"Quiet": func(g arguments) results {
+			sem.Quiet(g.Model, g.Case)
+			return results{Case: tree.Copy(g.Case)}
+		},
+		"Settle, where nothing happens": func(g arguments) results {
+			c, _, _ := settle.Settle(api.Model{}, g.Case, nil, g.Order, 20)
+			return results{Case: c}
+		},
+		"sem.Settle, where nothing happens": func(g arguments) results {
+			c, _, _ := sem.Settle(api.Model{}, g.Case, nil, 20)
+			return results{Case: c}
+		},
+	}
+	for name, change := range map[string]func(api.Model) api.Model{
+		" that ends the case": func(m api.Model) api.Model { return m },
+		", without an end":    single,
+	} {
+		l["Settle"+name] = func(g arguments) results {
+			c, _, _ := settle.Settle(change(g.Model), g.Case, g.Events, g.Order, 20)
+			return results{Case: c}
+		}
+		l["sem.Settle"+name] = func(g arguments) results {
+			c, _, _ := sem.Settle(change(g.Model), g.Case, g.Events, 20)
+			return results{Case: c}
+		}
+	}
+	return l
+}
+
 func TestMemory(t *testing.T) {
-	for name, call := range calls() {
+	for name, call := range calls(t) {
 		g, want := given(t), given(t)
 		r := call(g)
 		if !reflect.DeepEqual(g, want) || !unspoilt(&g) {

@@ -1,4 +1,4 @@
-// Package memory holds the document's rule 'Memory' for the calls of layers 19 to 26: arguments are left alone, and no list of a result is in memory of another list.
+// Package memory holds the document's rule 'Memory' for the calls of layers 19 to 28: arguments are left alone, and no list of a result is in memory of another list.
 package memory
 
 import (
@@ -13,6 +13,8 @@ import (
 	"dossier/index"
 	"dossier/latch"
 	"dossier/model"
+	"dossier/planning"
+	"dossier/roles"
 	"dossier/round"
 	"dossier/rules"
 	"dossier/sem"
@@ -82,7 +84,7 @@ type results struct {
 	Case        api.Case
 	Events      []api.Event
 	Hooks, More []api.Hook
-	Paths       []string
+	Paths       []string // or IDs
 	Firings     []api.Firing
 }
 
@@ -120,6 +122,7 @@ func calls(t *testing.T) map[string]func(g arguments) results {
 	maps.Copy(l, callsAbove())
 	maps.Copy(l, callsOfRounds(t))
 	maps.Copy(l, callsOfPropagations())
+	maps.Copy(l, callsOfRoles())
 	return l
 }
 
@@ -289,6 +292,28 @@ func callsOfPropagations() map[string]func(g arguments) results {
 		}
 	}
 	return l
+}
+
+// callsOfRoles are those of layers 27 and 28.
+func callsOfRoles() map[string]func(g arguments) results {
+	return map[string]func(g arguments) results{
+		"Check, Known and May": func(g arguments) results {
+			roles.Check(g.Model, "t", "")
+			roles.Known(g.Model, "r")
+			return results{Case: tree.Copy(g.Case), Paths: roles.May(g.Model, "r")}
+		},
+		"Items": func(g arguments) results {
+			return results{Case: tree.Copy(g.Case), Paths: planning.Items(g.Model, g.Case, "p.1/s.1")}
+		},
+		"Plan": func(g arguments) results {
+			c, l, _ := planning.Plan(g.Model, g.Case, "p.1/s.1", "d", 20)
+			return results{Case: c, Events: l}
+		},
+		"Plan of none": func(g arguments) results {
+			planning.Plan(g.Model, g.Case, "p.1", "d", 20)
+			return results{Case: tree.Copy(g.Case)}
+		},
+	}
 }
 
 func TestMemory(t *testing.T) {

@@ -128,6 +128,30 @@ func TestP13_2ItemsOfAnything(t *testing.T) {
 	}
 }
 
+// Flat has the same items, without what is below them.
+func TestP13_2Flat(t *testing.T) {
+	m := roomy()
+	l := Flat(m)
+	all := Items(sample())
+	if len(l) != len(all) {
+		t.Fatalf("%q", ids(l))
+	}
+	for k, want := range all {
+		want.Kids, want.Table = nil, nil
+		if !alike(l[k], want) {
+			t.Errorf("%d: %+v, want %+v", k, l[k], want)
+		}
+		spoil(l[k])
+		wantRoomy(t, m)
+	}
+	if l := Flat(api.Model{Plan: nest(60000, task("t"))[0]}); len(l) != 60001 || l[0].ID != "n59999" || l[60000].ID != "t" {
+		t.Error(len(l))
+	}
+	if l := Flat(api.Model{}); len(l) != 1 || !alike(l[0], api.Item{}) {
+		t.Errorf("%+v", l)
+	}
+}
+
 func TestP13_2Find(t *testing.T) {
 	m := sample()
 	for _, want := range Items(m) {

@@ -1,4 +1,4 @@
-// Package memory holds the document's rule 'Memory' for the calls of layers 19 to 28: arguments are left alone, and no list of a result is in memory of another list.
+// Package memory holds the document's rule 'Memory' for the calls of layers 19 to 30: arguments are left alone, and no list of a result is in memory of another list.
 package memory
 
 import (
@@ -9,6 +9,8 @@ import (
 
 	"dossier/api"
 	"dossier/cascade"
+	"dossier/codec"
+	"dossier/engine"
 	"dossier/finish"
 	"dossier/index"
 	"dossier/latch"
@@ -78,6 +80,8 @@ type arguments struct {
 	Events  []api.Event
 	Firings []api.Firing
 	Order   []int
+	Answer  api.Answer
+	Bytes   []byte
 }
 
 type results struct {
@@ -86,13 +90,15 @@ type results struct {
 	Hooks, More []api.Hook
 	Paths       []string // or IDs
 	Firings     []api.Firing
+	Answer      api.Answer
+	Bytes       []byte
 }
 
 // given are arguments with spare capacity everywhere.
 func given(t *testing.T) arguments {
 	t.Helper()
 	waits := []api.Sentry{{On: []api.OnPart{{Item: "u", Event: api.EvStart}, {Item: "a", Event: api.EvStart}}}, {If: "true"}}
-	g := arguments{Model: api.Model{ID: "m", Roles: []string{"r"}, Files: []api.FileItem{{Name: "f", Refs: []string{"f"}}}, Plan: api.Item{ID: "p", Exit: waits[1:], Kids: []api.Item{
+	g := arguments{Model: api.Model{ID: "m", Roles: []string{"r"}, Files: []api.FileItem{{Name: "f", Multi: api.MultiAny, Refs: []string{"f"}}}, Plan: api.Item{ID: "p", Exit: waits[1:], Kids: []api.Item{
 		{ID: "s", Kind: api.ItemStage, Exit: waits, Kids: []api.Item{
 			{ID: "t", Kind: api.ItemHuman, Entry: waits, Roles: []string{"r"}}, {ID: "u", Kind: api.ItemStage, Kids: []api.Item{{ID: "w", Kind: api.ItemTimer, After: 5}}, Repeat: "true", Required: "true"},
 		}, Table: []api.Item{{ID: "d", Kind: api.ItemCase, Entry: waits}}},
@@ -112,6 +118,7 @@ func given(t *testing.T) arguments {
 	c.Docs = []api.Doc{{Path: "f#1", Refs: []string{"f#1", "f#2"}}, {Path: "f#2", Refs: []string{"f#2"}}}
 	g.Case, g.Events, g.Order = c, l, []int{2, -1, 7}
 	g.Firings = []api.Firing{{Path: "p.1/s.1/t.1", Event: api.EvStart}, {Path: "p.1/s.1/u.1", Event: api.EvExit}, {Path: "p.1/a.1", Event: api.EvStart, Again: true}, {Path: "p.1/s.1/u.1/w.1", Event: api.EvOccur}}
+	g.Answer, g.Bytes = api.Answer{Names: []string{"m", "1:m"}, State: tree.Copy(c)}, codec.Case(nil, c)
 	widen(&g)
 	return g
 }
@@ -123,6 +130,8 @@ func calls(t *testing.T) map[string]func(g arguments) results {
 	maps.Copy(l, callsOfRounds(t))
 	maps.Copy(l, callsOfPropagations())
 	maps.Copy(l, callsOfRoles())
+	maps.Copy(l, callsOfCommands())
+	maps.Copy(l, callsOfBytes())
 	return l
 }
 
@@ -312,6 +321,70 @@ func callsOfRoles() map[string]func(g arguments) results {
 		"Plan of none": func(g arguments) results {
 			planning.Plan(g.Model, g.Case, "p.1", "d", 20)
 			return results{Case: tree.Copy(g.Case)}
+		},
+	}
+}
+
+// callsOfCommands are those of layer 29.
+func callsOfCommands() map[string]func(g arguments) results {
+	l := map[string]func(g arguments) results{
+		"New": func(g arguments) results {
+			c, _, _ := engine.New(single(g.Model), 1, g.Order, 20)
+			ended, _, _ := engine.New(g.Model, 2, g.Order, 20)
+			return results{Case: c, Answer: api.Answer{State: ended}}
+		},
+		"a command in an error": func(g arguments) results {
+			engine.Do(g.Model, g.Case, api.Command{Verb: api.VerbDo, Path: "p.1/s.1/t.1", Event: api.EvManual}, g.Order, 20)
+			return results{Case: tree.Copy(g.Case)}
+		},
+	}
+	for name, k := range map[string]api.Command{
+		"VerbDo":                      {Verb: api.VerbDo, Path: "p.1/s.1/u.1", Event: api.EvTerminate},
+		"VerbPlan":                    {Verb: api.VerbPlan, Path: "p.1/s.1", Name: "d"},
+		"VerbFile":                    {Verb: api.VerbFile, Event: api.EvCreate, Name: "f"},
+		"VerbFile, a reference":       {Verb: api.VerbFile, Event: api.EvAddRef, Path: "f#2", Name: "f#1"},
+		"VerbTick":                    {Verb: api.VerbTick, Int: 5},
+		"VerbTick, without an effect": {Verb: api.VerbTick},
+	} {
+		for ends, change := range map[string]func(api.Model) api.Model{" that ends the case": func(m api.Model) api.Model { return m }, ", without an end": single} {
+			l[name+ends] = func(g arguments) results {
+				c, _, _ := engine.Do(change(g.Model), g.Case, k, g.Order, 20)
+				return results{Case: c}
+			}
+		}
+	}
+	return l
+}
+
+// callsOfBytes are those of layer 30.
+func callsOfBytes() map[string]func(g arguments) results {
+	return map[string]func(g arguments) results{
+		"Command": func(g arguments) results {
+			b, _ := codec.Command(api.Command{Verb: api.VerbCreate, Role: "r", Name: "m"})
+			return results{Case: tree.Copy(g.Case), Bytes: b}
+		},
+		"ReadCommand": func(g arguments) results {
+			codec.ReadCommand(g.Bytes)
+			return results{Case: tree.Copy(g.Case)}
+		},
+		"Answer": func(g arguments) results {
+			return results{Case: tree.Copy(g.Case), Bytes: codec.Answer(g.Answer)}
+		},
+		"ReadAnswer": func(g arguments) results {
+			a, _ := codec.ReadAnswer(slices.Concat(make([]byte, 4), []byte{1}, g.Bytes))
+			return results{Answer: a}
+		},
+		"Case": func(g arguments) results { return results{Case: tree.Copy(g.Case), Bytes: codec.Case(g.Bytes, g.Case)} },
+		"Case of nothing": func(g arguments) results {
+			return results{Case: tree.Copy(g.Case), Bytes: codec.Case(g.Bytes, api.Case{})}
+		},
+		"ReadCase": func(g arguments) results {
+			c, _, _ := codec.ReadCase(g.Bytes)
+			return results{Case: c}
+		},
+		"ReadCase, with bytes behind": func(g arguments) results {
+			c, rest, _ := codec.ReadCase(append(g.Bytes[:len(g.Bytes):len(g.Bytes)], 1, 2, 3))
+			return results{Case: c, Bytes: rest}
 		},
 	}
 }

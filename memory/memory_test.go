@@ -1,4 +1,4 @@
-// Package memory holds the document's rule 'Memory' for the calls of layers 19 to 30: arguments are left alone, and no list of a result is in memory of another list.
+// Package memory holds the document's rule 'Memory' for the calls of layers 19 to 32: arguments are left alone, and no list of a result is in memory of another list.
 package memory
 
 import (
@@ -16,12 +16,16 @@ import (
 	"dossier/latch"
 	"dossier/model"
 	"dossier/planning"
+	"dossier/repo"
 	"dossier/roles"
 	"dossier/round"
 	"dossier/rules"
 	"dossier/sem"
 	"dossier/settle"
+	"dossier/show"
+	"dossier/store"
 	"dossier/tree"
+	"dossier/wire"
 )
 
 // each visits all lists in the value that a pointer points to.
@@ -82,6 +86,8 @@ type arguments struct {
 	Order   []int
 	Answer  api.Answer
 	Bytes   []byte
+	Printed []byte // the document of the model
+	Stored  []byte // a store with the model and the case
 }
 
 type results struct {
@@ -91,7 +97,10 @@ type results struct {
 	Paths       []string // or IDs
 	Firings     []api.Firing
 	Answer      api.Answer
+	Answers     []api.Answer
+	Models      []api.Model
 	Bytes       []byte
+	Pieces      [][]byte
 }
 
 // given are arguments with spare capacity everywhere.
@@ -119,6 +128,10 @@ func given(t *testing.T) arguments {
 	g.Case, g.Events, g.Order = c, l, []int{2, -1, 7}
 	g.Firings = []api.Firing{{Path: "p.1/s.1/t.1", Event: api.EvStart}, {Path: "p.1/s.1/u.1", Event: api.EvExit}, {Path: "p.1/a.1", Event: api.EvStart, Again: true}, {Path: "p.1/s.1/u.1/w.1", Event: api.EvOccur}}
 	g.Answer, g.Bytes = api.Answer{Names: []string{"m", "1:m"}, State: tree.Copy(c)}, codec.Case(nil, c)
+	if g.Printed, err = show.Print(g.Model); err != api.OK {
+		t.Fatal(err)
+	}
+	g.Stored = slices.Concat(wire.Text([]byte{40, 2}, string(g.Printed)), []byte{2}, g.Bytes)
 	widen(&g)
 	return g
 }
@@ -132,6 +145,7 @@ func calls(t *testing.T) map[string]func(g arguments) results {
 	maps.Copy(l, callsOfRoles())
 	maps.Copy(l, callsOfCommands())
 	maps.Copy(l, callsOfBytes())
+	maps.Copy(l, callsOfStores())
 	return l
 }
 
@@ -387,6 +401,50 @@ func callsOfBytes() map[string]func(g arguments) results {
 			return results{Case: c, Bytes: rest}
 		},
 	}
+}
+
+// callsOfStores are those of layers 31 and 32.
+func callsOfStores() map[string]func(g arguments) results {
+	return map[string]func(g arguments) results{
+		"repo.Deploy": func(g arguments) results {
+			r := repo.New()
+			r.Deploy(g.Printed)
+			return results{Case: tree.Copy(g.Case), Paths: r.IDs()}
+		},
+		"what a repository has": func(g arguments) results {
+			r, a := repo.New(), results{}
+			r.Deploy(g.Printed)
+			for _, x := range []*repo.Repo{r, r, r.Copy()} {
+				m, _ := x.Model("m")
+				b, _ := x.Document("m")
+				a.Models, a.Pieces = append(a.Models, m), append(a.Pieces, b)
+			}
+			return a
+		},
+		"Create and VerbLook": func(g arguments) results {
+			s, _ := store.New(20)
+			s.Do(api.Command{Verb: api.VerbDeploy, Text: string(g.Printed)}, g.Order)
+			s.Do(api.Command{Verb: api.VerbCreate, Name: "m"}, g.Order)
+			return answered(s, g.Order)
+		},
+		"Decode and VerbLook": func(g arguments) results {
+			s, _ := store.Decode(g.Stored)
+			s.Do(api.Command{Verb: api.VerbTick, Case: 1}, g.Order)
+			return answered(s, g.Order)
+		},
+	}
+}
+
+// answered is what a store and a copy of it answer, again and again.
+func answered(s *store.Store, order []int) results {
+	var a results
+	for _, x := range []*store.Store{s, s, s.Copy()} {
+		for _, verb := range []int{api.VerbLook, api.VerbList} {
+			a.Answers = append(a.Answers, x.Do(api.Command{Verb: verb, Case: 1}, order))
+		}
+		a.Pieces = append(a.Pieces, x.Encode())
+	}
+	return a
 }
 
 func TestMemory(t *testing.T) {

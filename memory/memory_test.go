@@ -1,4 +1,4 @@
-// Package memory holds the document's rule 'Memory' for the calls of layers 19 to 32: arguments are left alone, and no list of a result is in memory of another list.
+// Package memory holds the document's rule 'Memory' for the calls of layers 19 to 34: arguments are left alone, and no list of a result is in memory of another list.
 package memory
 
 import (
@@ -21,11 +21,14 @@ import (
 	"dossier/round"
 	"dossier/rules"
 	"dossier/sem"
+	"dossier/server"
 	"dossier/settle"
 	"dossier/show"
 	"dossier/store"
 	"dossier/tree"
+	"dossier/vdisk"
 	"dossier/wire"
+	"dossier/world"
 )
 
 // each visits all lists in the value that a pointer points to.
@@ -146,6 +149,7 @@ func calls(t *testing.T) map[string]func(g arguments) results {
 	maps.Copy(l, callsOfCommands())
 	maps.Copy(l, callsOfBytes())
 	maps.Copy(l, callsOfStores())
+	maps.Copy(l, callsOfServers())
 	return l
 }
 
@@ -445,6 +449,43 @@ func answered(s *store.Store, order []int) results {
 		a.Pieces = append(a.Pieces, x.Encode())
 	}
 	return a
+}
+
+// commands are those that make a case of the model, and look at it.
+func commands(g arguments) [][]byte {
+	var l [][]byte
+	for _, k := range []api.Command{{Verb: api.VerbDeploy, Text: string(g.Printed)}, {Verb: api.VerbCreate, Name: "m"}, {Verb: api.VerbLook, Case: 1}, {Verb: api.VerbList}, {Verb: api.VerbCompact}} {
+		b, _ := codec.Command(k)
+		l = append(l, b)
+	}
+	widen(&l)
+	return l
+}
+
+// callsOfServers are those of layers 33 and 34.
+func callsOfServers() map[string]func(g arguments) results {
+	return map[string]func(g arguments) results{
+		"server.Do": func(g arguments) results {
+			d, _ := vdisk.New(9999)
+			s, _ := server.Open(d, 20, 0)
+			l := commands(g)
+			for _, b := range l {
+				l = append(l, s.Do(b, g.Order), s.Image(), s.Image())
+			}
+			return results{Case: tree.Copy(g.Case), Pieces: l}
+		},
+		"world.Do": func(g arguments) results {
+			w, _ := world.New(9999, 20, 0)
+			l := commands(g)
+			for _, b := range l {
+				answer, _ := w.Do(api.Step{Kind: api.StepBytes, Bytes: b, Order: g.Order, Keeps: g.Order})
+				l = append(append(l, answer), w.Told()...)
+			}
+			w.Do(api.Step{Kind: api.StepCrash, Keeps: g.Order})
+			w.Do(api.Step{Kind: api.StepOpen})
+			return results{Case: tree.Copy(g.Case), Pieces: append(append(l, w.Told()...), w.Server().Image())}
+		},
+	}
 }
 
 func TestMemory(t *testing.T) {

@@ -59,21 +59,32 @@ func (x *execution) do(k api.Command) api.Errno {
 
 // fault returns what keeps a command from doing its event to the instance at its path.
 func fault(m api.Model, c api.Case, k api.Command) api.Errno {
-	x, is := tree.Find(c, k.Path)
+	x, i, err := open(m, c, k.Path, k.Role)
+	if err == api.OK {
+		err = refusal(m, c, x, i, k.Event)
+	}
+	return err
+}
+
+// open returns the instance at a path and its item, if a role may work on it.
+func open(m api.Model, c api.Case, path, role string) (api.Inst, api.Item, api.Errno) {
+	x, is := tree.Find(c, path)
 	i, known := model.Find(m, x.Item)
 	if !is || !known {
-		return api.ErrNone
+		return api.Inst{}, api.Item{}, api.ErrNone
 	}
-	if err := roles.Check(m, i.ID, k.Role); err != api.OK {
-		return err
-	}
-	up := tree.Up(k.Path)
+	return x, i, roles.Check(m, i.ID, role)
+}
+
+// refusal returns what keeps an instance of an item from an event that a command requests.
+func refusal(m api.Model, c api.Case, x api.Inst, i api.Item, event int) api.Errno {
+	up := tree.Up(x.Path)
 	plan := up == ""
-	_, can := states.Next(i.Kind, plan, x.State, x.Before, k.Event)
+	_, can := states.Next(i.Kind, plan, x.State, x.Before, event)
 	switch {
-	case !can, !Asked(i.Kind, plan, k.Event), !plan && !active(c, up):
+	case !can, !Asked(i.Kind, plan, event), !plan && !active(c, up):
 		return api.ErrState
-	case k.Event == api.EvComplete && i.Kind == api.ItemStage && !finish.May(m, c, k.Path):
+	case event == api.EvComplete && i.Kind == api.ItemStage && !finish.May(m, c, x.Path):
 		return api.ErrNeeded
 	}
 	return api.OK

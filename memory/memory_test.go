@@ -1,4 +1,4 @@
-// Package memory holds the document's rule 'Memory' for the calls of layers 19 to 34: arguments are left alone, and no list of a result is in memory of another list.
+// Package memory holds the document's rule 'Memory' for the calls of layers 19 to 36: arguments are left alone, and no list of a result is in memory of another list.
 package memory
 
 import (
@@ -8,6 +8,7 @@ import (
 	"testing"
 
 	"dossier/api"
+	"dossier/audit"
 	"dossier/cascade"
 	"dossier/codec"
 	"dossier/engine"
@@ -17,6 +18,7 @@ import (
 	"dossier/model"
 	"dossier/planning"
 	"dossier/repo"
+	"dossier/report"
 	"dossier/roles"
 	"dossier/round"
 	"dossier/rules"
@@ -99,6 +101,8 @@ type results struct {
 	Hooks, More []api.Hook
 	Paths       []string // or IDs
 	Firings     []api.Firing
+	Commands    []api.Command
+	Numbers     []int
 	Answer      api.Answer
 	Answers     []api.Answer
 	Models      []api.Model
@@ -150,6 +154,7 @@ func calls(t *testing.T) map[string]func(g arguments) results {
 	maps.Copy(l, callsOfBytes())
 	maps.Copy(l, callsOfStores())
 	maps.Copy(l, callsOfServers())
+	maps.Copy(l, callsOfReports())
 	return l
 }
 
@@ -484,6 +489,25 @@ func callsOfServers() map[string]func(g arguments) results {
 			w.Do(api.Step{Kind: api.StepCrash, Keeps: g.Order})
 			w.Do(api.Step{Kind: api.StepOpen})
 			return results{Case: tree.Copy(g.Case), Pieces: append(append(l, w.Told()...), w.Server().Image())}
+		},
+	}
+}
+
+// callsOfReports are those of layers 35 and 36.
+func callsOfReports() map[string]func(g arguments) results {
+	return map[string]func(g arguments) results{
+		"Sound and Odd": func(g arguments) results {
+			audit.Odd(g.Model, g.Case)
+			audit.Sound(g.Model, g.Case, 20)
+			return results{Case: tree.Copy(g.Case)}
+		},
+		"Text and Line": func(g arguments) results {
+			report.Text(g.Model, g.Case)
+			report.Line(g.Case.Insts[0])
+			return results{Case: tree.Copy(g.Case)}
+		},
+		"Work": func(g arguments) results {
+			return results{Case: tree.Copy(g.Case), Commands: report.Work(g.Model, g.Case, "r"), Numbers: engine.Requests(g.Model, g.Case, "p.1/s.1", "r")}
 		},
 	}
 }
